@@ -354,7 +354,27 @@ func (a plainAsks) answered(path string, con int) (plainAsks, bool) {
 	return out, true
 }
 
-// plainCompile tells at most some more than 200 nodes.
+// nodesBelow tells how many nodes there are from one on, itself too.
+func nodesBelow(nodes []impl.Node, at int) int {
+	count := 1
+	for _, next := range nodes[at].Next {
+		count += nodesBelow(nodes, next)
+	}
+	return count
+}
+
+// putBelow puts a node and all below it where they are to stand: each side behind as many as the sides ahead of it have.
+func putBelow(out []impl.Node, to int, nodes []impl.Node, at int) {
+	out[to] = impl.Node{Rule: nodes[at].Rule, Path: nodes[at].Path}
+	place := to + 1
+	for _, next := range nodes[at].Next {
+		out[to].Next = append(out[to].Next, place)
+		putBelow(out, place, nodes, next)
+		place += nodesBelow(nodes, next)
+	}
+}
+
+// plainCompile tells at most some more than 200 nodes, found level by level and then put in their order.
 func plainCompile(d impl.Data, rules [][]impl.Pat) []impl.Node {
 	var first []plainAsks
 	for number, s := range shapesOf(d, rules) {
@@ -393,7 +413,9 @@ func plainCompile(d impl.Data, rules [][]impl.Pat) []impl.Node {
 	for len(out) < len(levels) {
 		out = append(out, impl.Node{Rule: -1})
 	}
-	return out
+	ordered := make([]impl.Node, len(out))
+	putBelow(ordered, 0, out, 0)
+	return ordered
 }
 
 // allShapes tells all patterns (with anys) or values of just so many cells.
